@@ -175,7 +175,7 @@ func reads(t *testing.T, x *telem.Telem, times int) {
 }
 
 func TestAtOneTime(t *testing.T) {
-	for i, c := range []struct{ workers, stripes, times, resets int }{{1, 1, 300, 200}, {3, 1, 200, 200}, {4, 4, 300, 300}, {8, 3, 150, 150}, {8, 16, 200, 300}, {16, 16, 100, 400}} {
+	for i, c := range []struct{ workers, stripes, times, resets int }{{1, 1, 200, 100}, {3, 1, 100, 100}, {4, 4, 150, 100}, {8, 3, 80, 80}, {8, 16, 80, 100}, {16, 16, 40, 100}} {
 		config := api.Config{Stripes: c.stripes, Precision: 1, Cells: 50000}
 		x := made(t, config, onlyCounted...)
 		var wait sync.WaitGroup
