@@ -81,16 +81,33 @@ func TestEveryLayerIsThere(t *testing.T) {
 	}
 }
 
+// height tells a layer's number; of a package that is none, that of the highest layer that it stands on.
+func height(pack string, imports map[string][]string) int {
+	if layer := slices.Index(layers, pack); layer >= 0 {
+		return layer
+	}
+	highest := 0
+	for _, path := range imports[pack] {
+		if own, ok := strings.CutPrefix(path, "gnomon/"); ok {
+			highest = max(highest, height(own, imports))
+		}
+	}
+	return highest
+}
+
 func TestImports(t *testing.T) {
+	imports := map[string][]string{}
 	for _, s := range sources(t) {
-		for _, path := range s.imports(t) {
+		imports[s.pack] = append(imports[s.pack], s.imports(t)...)
+	}
+	for pack, paths := range imports {
+		for _, path := range paths {
 			own, isOwn := strings.CutPrefix(path, "gnomon/")
 			if !isOwn && !slices.Contains(library, path) {
-				t.Errorf("%s imports %s, which the language rules out", s.path, path)
+				t.Errorf("%s imports %s, which the language rules out", pack, path)
 			}
-			caller, called := slices.Index(layers, s.pack), slices.Index(layers, own)
-			if isOwn && caller >= 0 && called >= caller {
-				t.Errorf("%s imports %s, which is no layer below it", s.path, path)
+			if isOwn && slices.Contains(layers, pack) && height(own, imports) >= height(pack, imports) {
+				t.Errorf("%s imports %s, which is no layer below it, or stands on one that isn't", pack, path)
 			}
 		}
 	}
